@@ -41,11 +41,14 @@ func mayBeBytes(s string) bool {
 
 // Frac is the number as a fraction, and true, if that has not too many bytes.
 func (x Number) Frac() (api.Frac, bool) {
-	if x.num.Size() > api.MaxBytes || x.den.Size() > api.MaxBytes {
+	if x.Size() > api.MaxBytes {
 		return api.Frac{}, false
 	}
 	return api.Frac{Neg: x.neg, Num: x.num.Bytes(), Den: x.den.Bytes()}, true
 }
+
+// Size is how many bytes the longer one of the two numbers has.
+func (x Number) Size() int { return max(x.num.Size(), x.den.Size()) }
 
 // Num is the numerator without its sign.
 func (x Number) Num() nat.Nat { return x.num }

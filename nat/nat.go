@@ -33,6 +33,14 @@ func (x Nat) Size() int {
 	return len(x)*8 - bits.LeadingZeros64(top)/8
 }
 
+// Bits is how many binary digits the number has.
+func (x Nat) Bits() int {
+	if len(x) == 0 {
+		return 0
+	}
+	return len(x)*64 - bits.LeadingZeros64(x[len(x)-1])
+}
+
 // Bytes are the number's bytes, the highest first, without a 0 ahead.
 func (x Nat) Bytes() string {
 	s := make([]byte, x.Size())
@@ -119,6 +127,16 @@ func (x Nat) Mul(y Nat) Nat {
 	for i, w := range x {
 		z[i+len(y)] = addProduct(z[i:i+len(y)], y, w)
 	}
+	return z.trim()
+}
+
+// Shl is x times 2^n; x, if n is not above 0.
+func (x Nat) Shl(n int) Nat {
+	if len(x) == 0 || n <= 0 {
+		return x
+	}
+	z := make(Nat, n/64+len(x)+1)
+	copy(z[n/64:], x.shifted(n%64))
 	return z.trim()
 }
 

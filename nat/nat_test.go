@@ -105,6 +105,9 @@ func TestOne(t *testing.T) {
 		if n, ok := x.Word(); ok != a.IsUint64() || ok && n != a.Uint64() || !ok && n != 0 {
 			t.Fatalf("Word of %s = %d, %v", a, n, ok)
 		}
+		if x.Bits() != a.BitLen() {
+			t.Fatalf("Bits of %s = %d", a, x.Bits())
+		}
 		if x.IsOne() != (a.Cmp(big.NewInt(1)) == 0) {
 			t.Fatalf("IsOne of %s = %v", a, x.IsOne())
 		}
@@ -157,5 +160,26 @@ func TestDigitsThatGoBack(t *testing.T) {
 		{{0, 1<<64 - 1, 1<<64 - 1, 1<<64 - 2}, {1<<64 - 1, 1<<64 - 1, 1<<64 - 1}},
 	} {
 		checkPair(t, c[0], c[1], toBig(c[0]), toBig(c[1]))
+	}
+}
+
+func TestShl(t *testing.T) {
+	r := rand.New(rand.NewSource(4))
+	for range 300 {
+		x := anyNat(r, 6)
+		was := slices.Clone(x)
+		for _, n := range []int{0, 1, 2, 31, 63, 64, 65, 127, 128, 129, 1074, r.Intn(5000)} {
+			if !same(x.Shl(n), new(big.Int).Lsh(toBig(x), uint(n))) {
+				t.Fatalf("Shl(%v, %d) = %v", toBig(x), n, x.Shl(n))
+			}
+		}
+		for _, n := range []int{-1, -64, -1 << 63} {
+			if !same(x.Shl(n), toBig(x)) {
+				t.Fatalf("Shl(%v, %d) = %v", toBig(x), n, x.Shl(n))
+			}
+		}
+		if !slices.Equal(x, was) {
+			t.Fatalf("%v: changed", was)
+		}
 	}
 }
