@@ -15,6 +15,16 @@ func ReadComplex(z api.Gauss) (Complex, bool) {
 	return Complex{re, im}, true
 }
 
+// FromComplex is the number whose parts are worth what these floats are, and whether both are finite.
+func FromComplex(z complex128) (Complex, bool) {
+	re, reOk := FromFloat(real(z))
+	im, imOk := FromFloat(imag(z))
+	if !reOk || !imOk {
+		return Complex{}, false
+	}
+	return Complex{re, im}, true
+}
+
 // Gauss is the number with fractions as its parts, and true, if these have not too many bytes.
 func (z Complex) Gauss() (api.Gauss, bool) {
 	re, reOk := z.Re.Frac()

@@ -1,6 +1,7 @@
 package exact
 
 import (
+	"math"
 	"math/big"
 	"math/rand"
 	"strings"
@@ -49,6 +50,22 @@ func TestComplexOverNought(t *testing.T) {
 	z := Complex{one, one}.Quo(Complex{nought, nought})
 	if !isNone(z.Re) || !isNone(z.Im) {
 		t.Errorf("over nought: %v", z)
+	}
+}
+
+// What two floats are worth, if both are finite.
+func TestFromComplex(t *testing.T) {
+	z, ok := FromComplex(complex(-0.75, math.SmallestNonzeroFloat64))
+	if !ok {
+		t.Error("FromComplex")
+	}
+	isComplex(t, "FromComplex", z, big.NewRat(-3, 4), new(big.Rat).SetFloat64(math.SmallestNonzeroFloat64))
+	for _, v := range []float64{math.Inf(1), math.Inf(-1), math.NaN()} {
+		for _, c := range []complex128{complex(v, 1), complex(1, v), complex(v, v)} {
+			if z, ok := FromComplex(c); ok || !isNone(z.Re) || !isNone(z.Im) {
+				t.Errorf("FromComplex(%v) = %v, %v", c, z, ok)
+			}
+		}
 	}
 }
 

@@ -22,10 +22,9 @@ func Complex(z api.Gauss) (complex128, api.Errno) {
 
 // FromComplex is the number whose parts are worth what these floats are.
 func FromComplex(z complex128) (api.Gauss, api.Errno) {
-	re, reOk := exact.FromFloat(real(z))
-	im, imOk := exact.FromFloat(imag(z))
-	if !reOk || !imOk {
+	n, ok := exact.FromComplex(z)
+	if !ok {
 		return api.Gauss{}, api.ErrInf
 	}
-	return answer(exact.Complex{Re: re, Im: im})
+	return answer(n)
 }
