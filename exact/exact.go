@@ -22,6 +22,9 @@ func Of(neg bool, num, den nat.Nat) Number {
 	return Number{neg && len(num) > 0, num, den.Quo(common)}
 }
 
+// Whole is the whole number n.
+func Whole(n nat.Nat) Number { return Number{num: n, den: nat.Of(1)} }
+
 // Read is the number of a fraction, and whether that may be.
 func Read(x api.Frac) (Number, bool) {
 	if !mayBeBytes(x.Num) || !mayBeBytes(x.Den) || x.Den == "" || x.Neg && x.Num == "" {

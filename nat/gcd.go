@@ -26,16 +26,24 @@ func (x Nat) Gcd(y Nat) Nat {
 	if len(b) == 0 {
 		return a
 	}
-	return Of(gcdWords(b[0], a.restWord(b[0])))
+	return Of(gcdWords(b[0], a.RestWord(b[0])))
 }
 
-// restWord is the rest of x over w.
-func (x Nat) restWord(w uint64) uint64 {
+// RestWord is the rest of x over w; 0, if w is 0.
+func (x Nat) RestWord(w uint64) uint64 {
 	var rest uint64
+	if w == 0 {
+		return 0
+	}
 	for i := len(x) - 1; i >= 0; i-- {
-		rest = bits.Rem64(rest, x[i], w)
+		_, rest = bits.Div64(rest, x[i], w)
 	}
 	return rest
+}
+
+// Lcm is the least number above nought into which both go; nought, if one is nought.
+func (x Nat) Lcm(y Nat) Nat {
+	return x.Mul(y.Quo(x.Gcd(y)))
 }
 
 // gcdWords goes by Euclid's steps.

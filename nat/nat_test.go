@@ -75,6 +75,13 @@ func checkPair(t *testing.T, x, y Nat, a, b *big.Int) {
 	if !same(x.Gcd(y), new(big.Int).GCD(nil, nil, a, b)) {
 		t.Fatalf("Gcd(%v, %v) = %v", a, b, x.Gcd(y))
 	}
+	lcm := new(big.Int).Mul(a, b)
+	if lcm.Sign() != 0 {
+		lcm.Quo(lcm, new(big.Int).GCD(nil, nil, a, b))
+	}
+	if !same(x.Lcm(y), lcm) {
+		t.Fatalf("Lcm(%v, %v) = %v", a, b, x.Lcm(y))
+	}
 	q, rest := x.QuoRem(y)
 	wantQ, wantRest := new(big.Int), a
 	if b.Sign() != 0 {
@@ -110,6 +117,16 @@ func TestOne(t *testing.T) {
 		}
 		if x.IsOne() != (a.Cmp(big.NewInt(1)) == 0) {
 			t.Fatalf("IsOne of %s = %v", a, x.IsOne())
+		}
+	}
+	for range 5000 {
+		x, w := anyNat(r, 9), r.Uint64()>>r.Intn(64)
+		var want uint64
+		if w > 0 {
+			want = new(big.Int).Mod(toBig(x), new(big.Int).SetUint64(w)).Uint64()
+		}
+		if x.RestWord(w) != want {
+			t.Fatalf("RestWord of %v over %d = %d", x, w, x.RestWord(w))
 		}
 	}
 	if len(Of(0)) != 0 || !slices.Equal(Of(7), Nat{7}) {
