@@ -11,11 +11,13 @@ import (
 func (p Poly) Gcd(q Poly) Poly {
 	switch {
 	case len(p) == 0:
-		return q.monic()
+		return q.Monic()
 	case len(q) == 0:
-		return p.monic()
+		return p.Monic()
+	case p.seemsApart(q):
+		return Poly{Whole(nat.Of(1))}
 	}
-	a, b := p.primitive(), q.primitive()
+	a, b := p.Primitive(), q.Primitive()
 	// The primitive factor's highest coefficient goes into those of both, so that the factor that is looked for, so many times, has whole numbers alone.
 	top := a[len(a)-1].num.Gcd(b[len(b)-1].num)
 	var known guess
@@ -24,14 +26,34 @@ func (p Poly) Gcd(q Poly) Poly {
 		if !ok || !known.foresees(prime, prime.Scale(image, top.RestWord(uint64(prime)))) {
 			continue
 		}
-		if g := known.poly.primitive(); a.hasFactor(g) && b.hasFactor(g) {
-			return g.monic()
+		if g := known.poly.Primitive(); a.hasFactor(g) && b.hasFactor(g) {
+			return g.Monic()
 		}
 	}
 }
 
-// monic is the polynomial over its highest coefficient.
-func (p Poly) monic() Poly {
+// seemsApart tells whether two polynomials that are not 0 have images without a common factor, those of the first prime that leaves both degrees as they are. If so, they have none, as the factor's degree is not above its image's; this is much sooner told than what the factor is.
+func (p Poly) seemsApart(q Poly) bool {
+	for prime := residue.Greatest; ; prime = prime.Next() {
+		if image, ok := commonImage(prime, p, q); ok {
+			return len(image) == 1
+		}
+	}
+}
+
+// Simple has p's complex roots, each just once; p is not 0.
+func (p Poly) Simple() Poly {
+	common := p.Gcd(p.Derive())
+	if len(common) == 1 {
+		return p
+	}
+	// A primitive factor of whole numbers leaves whole numbers.
+	quo, _, _ := p.Primitive().QuoRem(common.Primitive(), Number.IsWhole)
+	return quo
+}
+
+// Monic is the polynomial over its highest coefficient.
+func (p Poly) Monic() Poly {
 	if len(p) == 0 {
 		return nil
 	}
@@ -39,15 +61,17 @@ func (p Poly) monic() Poly {
 	return p.each(func(_ int, c Number) Number { return c.Quo(top) })
 }
 
-// primitive is the polynomial times that number above 0 which makes its coefficients whole ones without a common factor.
-func (p Poly) primitive() Poly {
-	below := Whole(p.denominator())
-	whole := p.each(func(_ int, c Number) Number { return c.Mul(below) })
+// Primitive is the polynomial times that number above 0 which makes its coefficients whole ones without a common factor.
+func (p Poly) Primitive() Poly {
+	if len(p) == 0 {
+		return nil
+	}
 	var common nat.Nat
-	for _, c := range whole {
+	for _, c := range p {
 		common = common.Gcd(c.num)
 	}
-	return whole.each(func(_ int, c Number) Number { return Number{c.neg, c.num.Quo(common), c.den} })
+	// What goes into all numerators goes into no denominator.
+	return p.Scale(Number{false, p.denominator(), common})
 }
 
 // hasFactor tells whether a primitive polynomial goes into one of whole numbers. The quotient would have whole numbers too, so that what is none of these settles it.

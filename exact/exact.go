@@ -78,28 +78,17 @@ func (x Number) Neg() Number {
 	return Number{!x.neg && len(x.num) > 0, x.num, x.den}
 }
 
+// Abs is the number without its sign.
+func (x Number) Abs() Number { return Number{false, x.num, x.den} }
+
 // Add is the sum.
 func (x Number) Add(y Number) Number {
 	// What both denominators share is taken out first, so that the common factors that are left are small.
 	shared := x.den.Gcd(y.den)
 	left, right := x.den.Quo(shared), y.den.Quo(shared)
-	neg, num := sum(x.neg, x.num.Mul(right), y.neg, y.num.Mul(left))
+	neg, num := nat.Sum(x.neg, x.num.Mul(right), y.neg, y.num.Mul(left))
 	common := num.Gcd(shared)
 	return Number{neg, num.Quo(common), left.Mul(y.den.Quo(common))}
-}
-
-// sum adds two whole numbers, each with a sign.
-func sum(xNeg bool, x nat.Nat, yNeg bool, y nat.Nat) (bool, nat.Nat) {
-	if xNeg == yNeg {
-		return xNeg, x.Add(y)
-	}
-	switch x.Cmp(y) {
-	case 1:
-		return xNeg, x.Sub(y)
-	case -1:
-		return yNeg, y.Sub(x)
-	}
-	return false, nil
 }
 
 // Sub is the difference.

@@ -52,6 +52,7 @@ func TestAgainstTheLibrary(t *testing.T) {
 		isNumber(t, "Sub", x.Sub(y), new(big.Rat).Sub(a, b))
 		isNumber(t, "Mul", x.Mul(y), new(big.Rat).Mul(a, b))
 		isNumber(t, "Neg", x.Neg(), new(big.Rat).Neg(a))
+		isNumber(t, "Abs", x.Abs(), new(big.Rat).Abs(a))
 		if b.Sign() != 0 {
 			isNumber(t, "Quo", x.Quo(y), new(big.Rat).Quo(a, b))
 		}

@@ -230,14 +230,54 @@ func TestGcdOfProducts(t *testing.T) {
 		common, p := anyPoly(r, 6, bytes), anyPoly(r, 6, bytes)
 		// What goes into p and into this one goes into 1.
 		q := p.Mul(anyPoly(r, 6, bytes)).Add(polyText("1"))
-		isPoly(t, "Gcd", p.Mul(common).Gcd(q.Mul(common)), common.monic())
+		isPoly(t, "Gcd", p.Mul(common).Gcd(q.Mul(common)), common.Monic())
 	}
 }
 
 func TestPrimitive(t *testing.T) {
 	for _, c := range [][2]string{{"1/2 1/3", "3 2"}, {"4 -6", "2 -3"}, {"0 -5/7", "0 -1"}, {"2/3 4/9 -8/15", "15 10 -12"}, {"7", "1"}, {"", ""}} {
-		isPoly(t, c[0], polyText(c[0]).primitive(), polyText(c[1]))
+		isPoly(t, c[0], polyText(c[0]).Primitive(), polyText(c[1]))
 	}
+}
+
+// The primitive polynomial has no common factor, and the signs of the one it was made of.
+func TestPrimitiveOfMany(t *testing.T) {
+	r := rand.New(rand.NewSource(10))
+	for i := range 200 {
+		p := anyPoly(r, 9, 1+i%12)
+		got := p.Primitive()
+		var common nat.Nat
+		for _, c := range got {
+			common = common.Gcd(c.Num())
+			if !c.IsWhole() {
+				t.Fatalf("Primitive of %v = %v", p, got)
+			}
+		}
+		if len(p) > 0 && (!common.IsOne() || got[len(p)-1].Sign() != p[len(p)-1].Sign()) {
+			t.Fatalf("Primitive of %v = %v", p, got)
+		}
+		isPoly(t, "Monic of Primitive", got.Monic(), p.Monic())
+	}
+}
+
+// Each root once, of whatever was multiplied how often; also where the first prime's image has a root more often.
+func TestSimple(t *testing.T) {
+	r := rand.New(rand.NewSource(11))
+	for i := range 200 {
+		p, q := anyPoly(r, 5, 1+i%9), anyPoly(r, 4, 1+i%9)
+		if len(p) == 0 || len(q) == 0 || len(p.Gcd(q)) > 1 || len(p.Gcd(p.Derive())) > 1 || len(q.Gcd(q.Derive())) > 1 {
+			continue
+		}
+		want := p.Mul(q).Monic()
+		isPoly(t, "simple", p.Mul(q).Simple().Monic(), want)
+		isPoly(t, "one twice", p.Mul(q).Mul(q).Simple().Monic(), want)
+		isPoly(t, "one thrice", p.Mul(p).Mul(q).Mul(p).Simple().Monic(), want)
+	}
+	prime, base := first(1)[0], Whole(nat.Of(12345))
+	p := minus(base).Mul(minus(base.Add(prime)))
+	isPoly(t, "two that are one to a prime", p.Simple().Monic(), p)
+	isPoly(t, "one of these twice", p.Mul(minus(base)).Simple().Monic(), p)
+	isPoly(t, "a number", polyText("-5/3").Simple().Monic(), polyText("1"))
 }
 
 func TestHasFactor(t *testing.T) {

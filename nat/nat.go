@@ -113,6 +113,20 @@ func (x Nat) Sub(y Nat) Nat {
 	return z.trim()
 }
 
+// Sum adds two whole numbers, each with a sign; 0 has none.
+func Sum(xNeg bool, x Nat, yNeg bool, y Nat) (bool, Nat) {
+	if xNeg == yNeg {
+		return xNeg, x.Add(y)
+	}
+	switch x.Cmp(y) {
+	case 1:
+		return xNeg, x.Sub(y)
+	case -1:
+		return yNeg, y.Sub(x)
+	}
+	return false, nil
+}
+
 // Mul is the product.
 func (x Nat) Mul(y Nat) Nat {
 	switch {
@@ -138,6 +152,27 @@ func (x Nat) Shl(n int) Nat {
 	z := make(Nat, n/64+len(x)+1)
 	copy(z[n/64:], x.shifted(n%64))
 	return z.trim()
+}
+
+// Shr is x over 2^n, rounded down; x, if n is not above 0.
+func (x Nat) Shr(n int) Nat {
+	if n <= 0 {
+		return x
+	}
+	if n/64 >= len(x) {
+		return nil
+	}
+	return x[n/64:].clone().shiftedBack(n % 64)
+}
+
+// Twos is how many times 2 goes into x; 0, if x is nought.
+func (x Nat) Twos() int {
+	for i, w := range x {
+		if w != 0 {
+			return i*64 + bits.TrailingZeros64(w)
+		}
+	}
+	return 0
 }
 
 // addProduct adds y times w to z, which has as many words, and tells the word that goes beyond.

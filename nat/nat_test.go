@@ -1,6 +1,7 @@
 package nat
 
 import (
+	"math"
 	"math/big"
 	"math/rand"
 	"slices"
@@ -180,23 +181,53 @@ func TestDigitsThatGoBack(t *testing.T) {
 	}
 }
 
-func TestShl(t *testing.T) {
+func TestShifts(t *testing.T) {
 	r := rand.New(rand.NewSource(4))
 	for range 300 {
 		x := anyNat(r, 6)
 		was := slices.Clone(x)
-		for _, n := range []int{0, 1, 2, 31, 63, 64, 65, 127, 128, 129, 1074, r.Intn(5000)} {
-			if !same(x.Shl(n), new(big.Int).Lsh(toBig(x), uint(n))) {
-				t.Fatalf("Shl(%v, %d) = %v", toBig(x), n, x.Shl(n))
+		for _, n := range []int{0, 1, 2, 31, 63, 64, 65, 127, 128, 129, 383, 384, 1074, r.Intn(5000)} {
+			up, down := x.Shl(n), x.Shr(n)
+			if !same(up, new(big.Int).Lsh(toBig(x), uint(n))) {
+				t.Fatalf("Shl(%v, %d) = %v", toBig(x), n, up)
+			}
+			if !same(down, new(big.Int).Rsh(toBig(x), uint(n))) {
+				t.Fatalf("Shr(%v, %d) = %v", toBig(x), n, down)
+			}
+			if twos := up.Twos(); twos != int(toBig(up).TrailingZeroBits()) {
+				t.Fatalf("Twos of %v = %d", toBig(up), twos)
 			}
 		}
-		for _, n := range []int{-1, -64, -1 << 63} {
-			if !same(x.Shl(n), toBig(x)) {
-				t.Fatalf("Shl(%v, %d) = %v", toBig(x), n, x.Shl(n))
+		for _, n := range []int{-1, -64, math.MinInt} {
+			if !same(x.Shl(n), toBig(x)) || !same(x.Shr(n), toBig(x)) {
+				t.Fatalf("%v by %d: %v, %v", toBig(x), n, x.Shl(n), x.Shr(n))
 			}
 		}
 		if !slices.Equal(x, was) {
 			t.Fatalf("%v: changed", was)
+		}
+	}
+}
+
+func TestSum(t *testing.T) {
+	r := rand.New(rand.NewSource(6))
+	for range 3000 {
+		x, y := anyNat(r, 4), anyNat(r, 4)
+		if r.Intn(4) == 0 {
+			y = x
+		}
+		xNeg, yNeg := len(x) > 0 && r.Intn(2) == 0, len(y) > 0 && r.Intn(2) == 0
+		a, b := toBig(x), toBig(y)
+		if xNeg {
+			a.Neg(a)
+		}
+		if yNeg {
+			b.Neg(b)
+		}
+		neg, sum := Sum(xNeg, x, yNeg, y)
+		want := a.Add(a, b)
+		if neg != (want.Sign() < 0) || !same(sum, want.Abs(want)) {
+			t.Fatalf("Sum(%v, %v, %v, %v) = %v, %v", xNeg, x, yNeg, y, neg, sum)
 		}
 	}
 }
