@@ -71,7 +71,7 @@ func (p Poly) Primitive() Poly {
 		common = common.Gcd(c.num)
 	}
 	// What goes into all numerators goes into no denominator.
-	return p.Scale(Number{false, p.denominator(), common})
+	return p.Scale(Number{false, p.Denominator(), common})
 }
 
 // hasFactor tells whether a primitive polynomial goes into one of whole numbers. The quotient would have whole numbers too, so that what is none of these settles it.

@@ -178,6 +178,36 @@ func TestAtComplex(t *testing.T) {
 	}
 }
 
+func TestAtI(t *testing.T) {
+	for _, c := range []struct{ p, re, im string }{
+		{"", "", ""}, {"3", "3", ""}, {"0 2", "", "0 2"}, {"1 0 1", "1 0 -1", ""}, {"1 2 3 4 5 6 7 8 9", "1 0 -3 0 5 0 -7 0 9", "0 2 0 -4 0 6 0 -8"}, {"1/2 0 0 -5/3", "1/2", "0 0 0 5/3"},
+	} {
+		re, im := polyText(c.p).AtI()
+		isPoly(t, "the real part at i t", re, polyText(c.re))
+		isPoly(t, "the imaginary part at i t", im, polyText(c.im))
+	}
+	r := rand.New(rand.NewSource(9))
+	for i := range 100 {
+		p, x := anyPoly(r, 12, 1+i%12), ours(anyRat(r, 1+i%20))
+		re, im := p.AtI()
+		value := p.AtComplex(Complex{Whole(nil), x})
+		if re.At(x).Cmp(value.Re) != 0 || im.At(x).Cmp(value.Im) != 0 {
+			t.Errorf("%v at i times %v: %v and %v", p, x, re, im)
+		}
+	}
+}
+
+func TestDenominator(t *testing.T) {
+	for _, c := range []struct {
+		p    string
+		want uint64
+	}{{"", 1}, {"5 -7", 1}, {"1/2 1/3", 6}, {"1/4 -5/6 0 1/9", 36}, {"0 3/8", 8}} {
+		if n, ok := polyText(c.p).Denominator().Word(); n != c.want || !ok {
+			t.Errorf("the denominator of %s is %d, not %d", c.p, n, c.want)
+		}
+	}
+}
+
 // first are the first primes whose images are looked at.
 func first(n int) []Number {
 	var l []Number
