@@ -45,6 +45,22 @@ func (p Poly) Poly() (api.Poly, bool) {
 	return given, true
 }
 
+// PolyOver is the polynomial over x, which is not nought, with fractions as its coefficients, and true, if these are not too many and have not too many bytes. It leaves off at the first one that has, as great fractions take long to find.
+func (p Poly) PolyOver(x Number) (api.Poly, bool) {
+	if len(p) > api.MaxDegree+1 {
+		return nil, false
+	}
+	given := make(api.Poly, len(p))
+	for i, n := range p {
+		c, ok := n.Quo(x).Frac()
+		if !ok {
+			return nil, false
+		}
+		given[i] = c
+	}
+	return given, true
+}
+
 // trim leaves the noughts at the end away.
 func (p Poly) trim() Poly {
 	n := len(p)

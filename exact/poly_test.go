@@ -104,6 +104,49 @@ func TestPolysBeyondTheLimits(t *testing.T) {
 	}
 }
 
+// The answer alone is held against the limits, not what it is made of.
+func TestPolyOver(t *testing.T) {
+	r := rand.New(rand.NewSource(12))
+	for i := range 200 {
+		p, x := anyPoly(r, 9, 1+i%12), ours(anyRat(r, 1+i%12))
+		if x.Sign() == 0 {
+			continue
+		}
+		given, ok := p.PolyOver(x)
+		back, backOk := ReadPoly(given)
+		if !ok || !backOk {
+			t.Errorf("%v over %v: %v", p, x, given)
+		}
+		isPoly(t, "PolyOver, times that", back.Scale(x), p)
+	}
+	long := Whole(nat.Of(1).Shl(9 * api.MaxBytes))
+	given, ok := polyText("3 0 -1/2").Scale(long).PolyOver(long)
+	back, backOk := ReadPoly(given)
+	if !ok || !backOk {
+		t.Errorf("long ones over a long one: %v", given)
+	}
+	isPoly(t, "long ones over a long one", back, polyText("3 0 -1/2"))
+	if given, ok := polyText("").PolyOver(long); !ok || len(given) > 0 {
+		t.Errorf("0 over a long one: %v", given)
+	}
+	top, many := Whole(nat.Of(1).Shl(8*api.MaxBytes-1)), make(Poly, api.MaxDegree+2)
+	for i := range many {
+		many[i] = top
+	}
+	for i, c := range []struct {
+		p    Poly
+		x    Number
+		want bool
+	}{
+		{Poly{top}, polyText("1")[0], true}, {Poly{top}, polyText("1/2")[0], false}, {Poly{polyText("1")[0], top}, polyText("-1/2")[0], false}, {polyText("1 1"), top, true}, {polyText("0 0 1"), top.Add(top), false},
+		{many[1:], top, true}, {many, top, false},
+	} {
+		if given, ok := c.p.PolyOver(c.x); ok != c.want || !ok && given != nil {
+			t.Errorf("case %d: %v, %v", i, given, ok)
+		}
+	}
+}
+
 // quotient is p over what goes into it.
 func (p Poly) quotient(t *testing.T, q Poly) Poly {
 	t.Helper()

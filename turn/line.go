@@ -14,21 +14,12 @@ func Line(p api.Poly, n int) (re, im api.Poly, e api.Errno) {
 	// It goes by whole numbers: sums of fractions would have to find out anew each time what the denominators share.
 	below := exact.Whole(read.Denominator())
 	first, second := along(read.Scale(below), n).AtI()
-	re, reOk := quotient(first, below)
-	im, imOk := quotient(second, below)
+	re, reOk := first.PolyOver(below)
+	im, imOk := second.PolyOver(below)
 	if !reOk || !imOk {
 		return nil, nil, api.ErrLong
 	}
 	return re, im, api.OK
-}
-
-// quotient is p over a number, and true, if its coefficients have not too many bytes. It leaves off at the first one that has, as great fractions take long to find.
-func quotient(p exact.Poly, below exact.Number) (api.Poly, bool) {
-	quo, _, ok := p.QuoRem(exact.Poly{below}, func(c exact.Number) bool { return c.Size() <= api.MaxBytes })
-	if !ok {
-		return nil, false
-	}
-	return quo.Poly()
 }
 
 // along is (1 - s)^n p((1 + s) / (1 - s)), as a polynomial in s; at s = i t that is what is asked for. The degree of p is not above n.
