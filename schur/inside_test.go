@@ -167,7 +167,7 @@ func TestInsideAgainstTheLibrary(t *testing.T) {
 		}
 		isInside(t, p, want)
 	}
-	if count[0] < 100 || count[1] < 100 {
+	if count[0] < 50 || count[1] < 50 {
 		t.Errorf("%v are not inside, and are", count)
 	}
 }
