@@ -38,6 +38,7 @@ func isAll(t *testing.T, b api.Bore, bits int) {
 
 // P12.3, P12.4: all modes at few bits, where often more of them are needed.
 func TestAll(t *testing.T) {
+	t.Parallel()
 	for i, b := range bores(3, 150) {
 		isAll(t, b, i%4)
 	}
@@ -45,6 +46,7 @@ func TestAll(t *testing.T) {
 
 // P12.3, P12.4: all modes at more bits.
 func TestAllAtManyBits(t *testing.T) {
+	t.Parallel()
 	bits := []int{4, 5, 7, 8, 15, 16, 31, 32, 53, 63, 64, 65, 100, 127, 128, 129}
 	for i, b := range bores(4, 30) {
 		isAll(t, b, bits[i%len(bits)])
@@ -53,6 +55,7 @@ func TestAllAtManyBits(t *testing.T) {
 
 // P12.3: all modes at as many bits as may be.
 func TestAllAtMostBits(t *testing.T) {
+	t.Parallel()
 	list := []api.Bore{pipe(api.Stopped, api.Stopped, "1x1"), pipe(api.Open, api.Stopped, "1x1"), pipe(api.Stopped, api.Stopped, "1x12"), pipe(api.Open, api.Open, strings.Repeat("65535x1 1/65535x1 ", 16))}
 	for _, b := range slices.Concat(list, longBores(2, 2), bores(5, 4)[80:]) {
 		isAll(t, b, 255)
@@ -114,6 +117,7 @@ func TestAllOfPoints(t *testing.T) {
 
 // P12.3: ErrRoot is told just where a cell of 256 has two modes, whatever the bits are; errors of the bits go ahead of it.
 func TestAllOfPairs(t *testing.T) {
+	t.Parallel()
 	for _, c := range []struct{ end, necks, below, least, bits int }{
 		{api.Stopped, 8, 7800, 255, 256}, {api.Stopped, 8, 8040, 256, 0}, {api.Stopped, 8, 8120, 256, 256}, {api.Stopped, 8, 8400, 257, 0}, {api.Stopped, 8, 8400, 257, 256}, {api.Stopped, 8, 9800, 258, 255}, {api.Stopped, 12, 65535, 409, 1}, {api.Open, 12, 65535, 391, 256},
 	} {
@@ -135,6 +139,7 @@ func TestAllOfPairs(t *testing.T) {
 
 // P12.3: bits that may not be.
 func TestAllErrors(t *testing.T) {
+	t.Parallel()
 	for _, b := range bores(6, 10) {
 		for _, bits := range []int{-1, -2, -256, -257, math.MinInt32, math.MinInt} {
 			l, e := mode.All(b, bits)
@@ -151,6 +156,7 @@ func TestAllErrors(t *testing.T) {
 
 // P12.3: modes that are as far from 0 as bores have them, and the longest numbers that are told.
 func TestAllOfFarOnes(t *testing.T) {
+	t.Parallel()
 	longest := 0
 	for _, c := range []struct {
 		b    api.Bore

@@ -20,6 +20,7 @@ func someEnds(r *rand.Rand) []*big.Rat {
 
 // P12.2: how many half tangents a gap has, mirror images too, both ends being in it.
 func TestCount(t *testing.T) {
+	t.Parallel()
 	r := rand.New(rand.NewSource(1))
 	some, ends := 0, 0
 	for i, b := range bores(2, 40) {

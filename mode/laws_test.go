@@ -28,6 +28,7 @@ func countOf(t *testing.T, b api.Bore, g api.Gap) int {
 
 // P12.6 (W1): told modes and mirror images are as many as there are cells; each gap has just one, but for such as are at an end of it; each mode is ahead of the next one, and neither of itself nor of the one before.
 func TestAllAreTold(t *testing.T) {
+	t.Parallel()
 	r := rand.New(rand.NewSource(1))
 	half := api.Mode{Half: true}
 	for _, b := range bores(7, 40)[30:] {
@@ -147,6 +148,7 @@ func TestPolyOfOneArea(t *testing.T) {
 
 // P12.7: a factor of all areas changes nothing.
 func TestFactorOfAreas(t *testing.T) {
+	t.Parallel()
 	r := rand.New(rand.NewSource(2))
 	done := 0
 	for _, b := range bores(10, 60) {
@@ -176,6 +178,7 @@ func TestFactorOfAreas(t *testing.T) {
 
 // P12.7: turned about, with its ends changed too, a bore has the same modes.
 func TestTurnedAbout(t *testing.T) {
+	t.Parallel()
 	for _, b := range bores(11, 60) {
 		other := api.Bore{Pieces: slices.Clone(b.Pieces), Near: b.Far, Far: b.Near}
 		slices.Reverse(other.Pieces)
@@ -189,6 +192,7 @@ func TestTurnedAbout(t *testing.T) {
 
 // P12.7: what is told at more bits lies within what is told at fewer ones.
 func TestMoreBitsLieWithin(t *testing.T) {
+	t.Parallel()
 	for _, b := range bores(12, 30)[20:] {
 		last, e := mode.All(b, 0)
 		for _, bits := range []int{1, 2, 5, 40} {

@@ -26,6 +26,7 @@ func longBores(seed int64, count int) []api.Bore {
 
 // P12.1: the polynomial and the line, by the chapter's words.
 func TestPolyAndLine(t *testing.T) {
+	t.Parallel()
 	for _, b := range slices.Concat(bores(1, 120), longBores(1, 10), pairs()) {
 		p, e := mode.Poly(b)
 		isPoly(t, "Poly of "+name(b), p, e, fracsOf(boresPoly(b)))
