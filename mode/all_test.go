@@ -39,7 +39,7 @@ func isAll(t *testing.T, b api.Bore, bits int) {
 // P12.3, P12.4: all modes at few bits, where often more of them are needed.
 func TestAll(t *testing.T) {
 	t.Parallel()
-	for i, b := range bores(3, 150) {
+	for i, b := range bores(3, 120) {
 		isAll(t, b, i%4)
 	}
 }
@@ -48,7 +48,7 @@ func TestAll(t *testing.T) {
 func TestAllAtManyBits(t *testing.T) {
 	t.Parallel()
 	bits := []int{4, 5, 7, 8, 15, 16, 31, 32, 53, 63, 64, 65, 100, 127, 128, 129}
-	for i, b := range bores(4, 30) {
+	for i, b := range bores(4, 30)[48:] {
 		isAll(t, b, bits[i%len(bits)])
 	}
 }
